@@ -1,0 +1,88 @@
+package codes
+
+import (
+	"strconv"
+	"strings"
+
+	"padlock/api"
+)
+
+// write returns a valid clue as text.
+func write(c api.Clue) string {
+	s := shapes[c.Kind-1]
+	text := s.word
+	if c.Not {
+		text = "not " + text
+	}
+	for _, letter := range s.numbers {
+		text += " " + strconv.Itoa(*field(&c, letter))
+	}
+	if s.guess {
+		text += " "
+		for _, n := range c.Guess {
+			text += strconv.Itoa(n)
+		}
+	}
+	return text
+}
+
+// read returns the clue of a text, which need not be valid, and whether the text has the form of one.
+func read(text string) (api.Clue, bool) {
+	rest, not := strings.CutPrefix(text, "not ")
+	words := strings.Split(rest, " ")
+	for i, s := range shapes {
+		if s.word == words[0] {
+			c, ok := s.fill(words[1:])
+			c.Kind, c.Not = i+1, not
+			return c, ok
+		}
+	}
+	return api.Clue{}, false
+}
+
+// fill reads the fields of a clue of this shape.
+func (s shape) fill(words []string) (c api.Clue, ok bool) {
+	n := len(s.numbers)
+	if s.guess {
+		n++
+	}
+	if len(words) != n {
+		return api.Clue{}, false
+	}
+	for i, letter := range s.numbers {
+		if *field(&c, letter), ok = number(words[i]); !ok {
+			return api.Clue{}, false
+		}
+	}
+	if s.guess {
+		c.Guess, ok = digits(words[n-1], api.MaxWheels)
+	}
+	return c, ok
+}
+
+// number reads one to three digits without a leading zero.
+func number(word string) (n int, ok bool) {
+	list, ok := digits(word, 3)
+	if !ok || len(list) > 1 && list[0] == 0 {
+		return 0, false
+	}
+	for _, d := range list {
+		n = n*10 + d
+	}
+	return n, true
+}
+
+// digits reads one to most digits.
+func digits(word string, most int) ([]int, bool) {
+	if !within(len(word), 1, most) {
+		return nil, false
+	}
+	list := make([]int, len(word))
+	for i := range list {
+		if !within(int(word[i]), '0', '9') {
+			return nil, false
+		}
+		list[i] = int(word[i] - '0')
+	}
+	return list, true
+}
