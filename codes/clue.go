@@ -1,6 +1,9 @@
 package codes
 
-import "padlock/api"
+import (
+	"padlock/api"
+	"padlock/rules"
+)
 
 // shape says how a kind of clue is written, and so which fields it uses: the letters of its numbers in the order of the text, and whether a guess stands behind them.
 type shape struct {
@@ -42,7 +45,7 @@ func (s shape) spares(c api.Clue) bool {
 }
 
 func (l lock) checkClue(c api.Clue) api.Errno {
-	if within(c.Kind, 1, len(shapes)) && shapes[c.Kind-1].spares(c) && l.inRange(c) {
+	if rules.Within(c.Kind, 1, len(shapes)) && shapes[c.Kind-1].spares(c) && l.inRange(c) {
 		return api.OK
 	}
 	return api.ErrClue
@@ -66,15 +69,15 @@ func (l lock) inRange(c api.Clue) bool {
 	case api.At:
 		return l.hasWheel(c.A) && l.hasSymbol(c.N)
 	case api.Sum:
-		return l.hasWheel(c.A) && l.hasWheel(c.B) && c.A <= c.B && within(c.N, 0, 100)
+		return l.hasWheel(c.A) && l.hasWheel(c.B) && c.A <= c.B && rules.Within(c.N, 0, 100)
 	case api.Less, api.Same:
 		return l.hasWheel(c.A) && l.hasWheel(c.B) && c.A != c.B
 	case api.Has:
-		return l.hasSymbol(c.N) && within(c.M, 0, l.Wheels)
+		return l.hasSymbol(c.N) && rules.Within(c.M, 0, l.Wheels)
 	case api.Right:
-		return l.hasCode(c.Guess) && within(c.N, 0, l.Wheels) && within(c.M, 0, l.Wheels)
+		return l.hasCode(c.Guess) && rules.Within(c.N, 0, l.Wheels) && rules.Within(c.M, 0, l.Wheels)
 	case api.Remain:
-		return l.hasWheel(c.A) && within(c.N, 2, 10) && within(c.M, 0, c.N-1)
+		return l.hasWheel(c.A) && rules.Within(c.N, 2, 10) && rules.Within(c.M, 0, c.N-1)
 	}
 	return false
 }

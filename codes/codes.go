@@ -5,6 +5,7 @@ import (
 	"slices"
 
 	"padlock/api"
+	"padlock/rules"
 )
 
 const (
@@ -19,18 +20,18 @@ func Check(l api.CodeLock) api.Errno { return lock(l).check() }
 
 // CheckClue returns ErrClue unless a clue is valid.
 func CheckClue(l api.CodeLock, c api.Clue) api.Errno {
-	return first(lock(l).check(), lock(l).checkClue(c))
+	return rules.First(lock(l).check(), lock(l).checkClue(c))
 }
 
 // CheckCode returns ErrCode unless a code is one.
 func CheckCode(l api.CodeLock, code []int) api.Errno {
-	return first(lock(l).check(), lock(l).checkCodes(code))
+	return rules.First(lock(l).check(), lock(l).checkCodes(code))
 }
 
 // Answer returns how much a guess and a code have in common.
 func Answer(l api.CodeLock, code, guess []int) (right, common int, e api.Errno) {
 	k := lock(l)
-	if e := first(k.check(), k.checkCodes(code, guess)); e != api.OK {
+	if e := rules.First(k.check(), k.checkCodes(code, guess)); e != api.OK {
 		return 0, 0, e
 	}
 	right, common = k.answer(rowOf(code), rowOf(guess))
@@ -40,7 +41,7 @@ func Answer(l api.CodeLock, code, guess []int) (right, common int, e api.Errno) 
 // Holds reports whether a clue holds for a code.
 func Holds(l api.CodeLock, c api.Clue, code []int) (bool, api.Errno) {
 	k := lock(l)
-	if e := first(k.check(), k.checkClue(c), k.checkCodes(code)); e != api.OK {
+	if e := rules.First(k.check(), k.checkClue(c), k.checkCodes(code)); e != api.OK {
 		return false, e
 	}
 	return k.holds(c, rowOf(code)), api.OK
@@ -49,7 +50,7 @@ func Holds(l api.CodeLock, c api.Clue, code []int) (bool, api.Errno) {
 // Fits reports whether a code is a reading of clues; the clue is the first one that does not hold, or -1.
 func Fits(l api.CodeLock, clues []api.Clue, code []int) (clue int, is bool, e api.Errno) {
 	k := lock(l)
-	if e := first(k.check(), k.checkClues(clues, api.MaxClues), k.checkCodes(code)); e != api.OK {
+	if e := rules.First(k.check(), k.checkClues(clues, api.MaxClues), k.checkCodes(code)); e != api.OK {
 		return 0, false, e
 	}
 	clue = k.broken(clues, rowOf(code))
@@ -59,7 +60,7 @@ func Fits(l api.CodeLock, clues []api.Clue, code []int) (clue int, is bool, e ap
 // Count returns how many readings there are.
 func Count(l api.CodeLock, clues []api.Clue) (int, api.Errno) {
 	k := lock(l)
-	if e := first(k.check(), k.checkClues(clues, api.MaxClues)); e != api.OK {
+	if e := rules.First(k.check(), k.checkClues(clues, api.MaxClues)); e != api.OK {
 		return 0, e
 	}
 	n := 0
@@ -72,10 +73,10 @@ func Count(l api.CodeLock, clues []api.Clue) (int, api.Errno) {
 // Readings returns the first readings.
 func Readings(l api.CodeLock, clues []api.Clue, most int) ([][]int, api.Errno) {
 	k := lock(l)
-	if e := first(k.check(), k.checkClues(clues, api.MaxClues)); e != api.OK {
+	if e := rules.First(k.check(), k.checkClues(clues, api.MaxClues)); e != api.OK {
 		return nil, e
 	}
-	if !within(most, 1, api.MaxList) {
+	if !rules.Within(most, 1, api.MaxList) {
 		return nil, api.ErrArg
 	}
 	var list [][]int
@@ -91,7 +92,7 @@ func Readings(l api.CodeLock, clues []api.Clue, most int) ([][]int, api.Errno) {
 // Shows returns the symbols that each wheel shows in some reading.
 func Shows(l api.CodeLock, clues []api.Clue) ([][]int, api.Errno) {
 	k := lock(l)
-	if e := first(k.check(), k.checkClues(clues, api.MaxClues)); e != api.OK {
+	if e := rules.First(k.check(), k.checkClues(clues, api.MaxClues)); e != api.OK {
 		return nil, e
 	}
 	var shown [api.MaxWheels][api.MaxSymbols]bool
@@ -114,7 +115,7 @@ func Shows(l api.CodeLock, clues []api.Clue) ([][]int, api.Errno) {
 // Implies reports whether a clue holds in all readings of others; if not, the code is the first reading in which it does not.
 func Implies(l api.CodeLock, clues []api.Clue, c api.Clue) (code []int, is bool, e api.Errno) {
 	k := lock(l)
-	if e := first(k.check(), k.checkClues(clues, api.MaxClues), k.checkClue(c)); e != api.OK {
+	if e := rules.First(k.check(), k.checkClues(clues, api.MaxClues), k.checkClue(c)); e != api.OK {
 		return nil, false, e
 	}
 	for r := range k.readings(clues) {
@@ -128,7 +129,7 @@ func Implies(l api.CodeLock, clues []api.Clue, c api.Clue) (code []int, is bool,
 // Idle returns the clues without which nothing changes.
 func Idle(l api.CodeLock, clues []api.Clue) ([]int, api.Errno) {
 	k := lock(l)
-	if e := first(k.check(), k.checkClues(clues, api.MaxClues)); e != api.OK {
+	if e := rules.First(k.check(), k.checkClues(clues, api.MaxClues)); e != api.OK {
 		return nil, e
 	}
 	refusals, all := k.refusals(clues), upTo(len(clues))
@@ -144,7 +145,7 @@ func Idle(l api.CodeLock, clues []api.Clue) ([]int, api.Errno) {
 // Core returns clues that have the readings of all.
 func Core(l api.CodeLock, clues []api.Clue) ([]int, api.Errno) {
 	k := lock(l)
-	if e := first(k.check(), k.checkClues(clues, api.MaxClues)); e != api.OK {
+	if e := rules.First(k.check(), k.checkClues(clues, api.MaxClues)); e != api.OK {
 		return nil, e
 	}
 	refusals, core := k.refusals(clues), upTo(len(clues))
@@ -159,7 +160,7 @@ func Core(l api.CodeLock, clues []api.Clue) ([]int, api.Errno) {
 // Pair returns two different readings: the first one and the last one.
 func Pair(l api.CodeLock, clues []api.Clue) (a, b []int, e api.Errno) {
 	k := lock(l)
-	if e := first(k.check(), k.checkClues(clues, api.MaxClues)); e != api.OK {
+	if e := rules.First(k.check(), k.checkClues(clues, api.MaxClues)); e != api.OK {
 		return nil, nil, e
 	}
 	var low, high row
@@ -180,7 +181,7 @@ func Pair(l api.CodeLock, clues []api.Clue) (a, b []int, e api.Errno) {
 // Choose returns the fewest clues for which a code is the only reading.
 func Choose(l api.CodeLock, pool []api.Clue, code []int) ([]int, api.Errno) {
 	k := lock(l)
-	if e := first(k.check(), k.checkClues(pool, maxPool), k.checkCodes(code)); e != api.OK {
+	if e := rules.First(k.check(), k.checkClues(pool, maxPool), k.checkCodes(code)); e != api.OK {
 		return nil, e
 	}
 	target := rowOf(code)
@@ -203,7 +204,7 @@ func Choose(l api.CodeLock, pool []api.Clue, code []int) ([]int, api.Errno) {
 // Next returns a reading to be tried next, and how many readings are left behind it at the worst.
 func Next(l api.CodeLock, clues []api.Clue) (guess []int, worst int, e api.Errno) {
 	k := lock(l)
-	if e := first(k.check(), k.checkClues(clues, api.MaxClues)); e != api.OK {
+	if e := rules.First(k.check(), k.checkClues(clues, api.MaxClues)); e != api.OK {
 		return nil, 0, e
 	}
 	var list []row
@@ -229,7 +230,7 @@ func Next(l api.CodeLock, clues []api.Clue) (guess []int, worst int, e api.Errno
 // Format returns a clue as text.
 func Format(l api.CodeLock, c api.Clue) (string, api.Errno) {
 	k := lock(l)
-	if e := first(k.check(), k.checkClue(c)); e != api.OK {
+	if e := rules.First(k.check(), k.checkClue(c)); e != api.OK {
 		return "", e
 	}
 	return write(c), api.OK

@@ -4,6 +4,7 @@ import (
 	"iter"
 
 	"padlock/api"
+	"padlock/rules"
 )
 
 // lock is a code lock; most of its methods expect it to be valid.
@@ -26,28 +27,16 @@ func (l lock) code(r row) []int {
 	return list
 }
 
-func within(n, least, most int) bool { return least <= n && n <= most }
-
-// first returns the first error of several. All of them are computed before, so none may rely on the absence of another.
-func first(errors ...api.Errno) api.Errno {
-	for _, e := range errors {
-		if e != api.OK {
-			return e
-		}
-	}
-	return api.OK
-}
-
 func (l lock) check() api.Errno {
-	if within(l.Wheels, 1, api.MaxWheels) && within(l.Symbols, 2, api.MaxSymbols) {
+	if rules.Within(l.Wheels, 1, api.MaxWheels) && rules.Within(l.Symbols, 2, api.MaxSymbols) {
 		return api.OK
 	}
 	return api.ErrLock
 }
 
-func (l lock) hasWheel(n int) bool { return within(n, 0, l.Wheels-1) }
+func (l lock) hasWheel(n int) bool { return rules.Within(n, 0, l.Wheels-1) }
 
-func (l lock) hasSymbol(n int) bool { return within(n, 0, l.Symbols-1) }
+func (l lock) hasSymbol(n int) bool { return rules.Within(n, 0, l.Symbols-1) }
 
 func (l lock) hasCode(code []int) bool {
 	for _, s := range code {

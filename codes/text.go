@@ -5,6 +5,7 @@ import (
 	"strings"
 
 	"padlock/api"
+	"padlock/rules"
 )
 
 // write returns a valid clue as text.
@@ -50,39 +51,12 @@ func (s shape) fill(words []string) (c api.Clue, ok bool) {
 		return api.Clue{}, false
 	}
 	for i, letter := range s.numbers {
-		if *field(&c, letter), ok = number(words[i]); !ok {
+		if *field(&c, letter), ok = rules.Number(words[i], 3); !ok {
 			return api.Clue{}, false
 		}
 	}
 	if s.guess {
-		c.Guess, ok = digits(words[n-1], api.MaxWheels)
+		c.Guess, ok = rules.Digits(words[n-1], api.MaxWheels)
 	}
 	return c, ok
-}
-
-// number reads one to three digits without a leading zero.
-func number(word string) (n int, ok bool) {
-	list, ok := digits(word, 3)
-	if !ok || len(list) > 1 && list[0] == 0 {
-		return 0, false
-	}
-	for _, d := range list {
-		n = n*10 + d
-	}
-	return n, true
-}
-
-// digits reads one to most digits.
-func digits(word string, most int) ([]int, bool) {
-	if !within(len(word), 1, most) {
-		return nil, false
-	}
-	list := make([]int, len(word))
-	for i := range list {
-		if !within(int(word[i]), '0', '9') {
-			return nil, false
-		}
-		list[i] = int(word[i] - '0')
-	}
-	return list, true
 }

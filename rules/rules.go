@@ -1,0 +1,52 @@
+// Package rules contains what the layers need to keep to the rules of shared/DOC.md: the order of errors, limits, and numbers in texts.
+package rules
+
+import "padlock/api"
+
+// First returns the first error of several (R1). All of them are computed before, so none may rely on the absence of another.
+func First(errors ...api.Errno) api.Errno {
+	for _, e := range errors {
+		if e != api.OK {
+			return e
+		}
+	}
+	return api.OK
+}
+
+// Unless returns OK if something is as it should be, and otherwise an error.
+func Unless(is bool, e api.Errno) api.Errno {
+	if is {
+		return api.OK
+	}
+	return e
+}
+
+// Within reports whether a number is from least to most (R7).
+func Within(n, least, most int) bool { return least <= n && n <= most }
+
+// Number reads a number of one to most digits without a leading zero (R9). It never overflows with most up to 18.
+func Number(word string, most int) (n int, ok bool) {
+	list, ok := Digits(word, most)
+	if !ok || len(list) > 1 && list[0] == 0 {
+		return 0, false
+	}
+	for _, d := range list {
+		n = n*10 + d
+	}
+	return n, true
+}
+
+// Digits reads one to most digits, each a number of its own.
+func Digits(word string, most int) ([]int, bool) {
+	if !Within(len(word), 1, most) {
+		return nil, false
+	}
+	list := make([]int, len(word))
+	for i := range list {
+		if !Within(int(word[i]), '0', '9') {
+			return nil, false
+		}
+		list[i] = int(word[i] - '0')
+	}
+	return list, true
+}

@@ -1,0 +1,65 @@
+package rules_test
+
+import (
+	"slices"
+	"testing"
+
+	"padlock/api"
+	"padlock/rules"
+)
+
+// R1: the first error counts.
+func TestFirst(t *testing.T) {
+	for _, c := range []struct {
+		errors []api.Errno
+		want   api.Errno
+	}{
+		{nil, api.OK}, {[]api.Errno{api.OK, api.OK}, api.OK}, {[]api.Errno{api.OK, api.ErrNote, api.ErrArg}, api.ErrNote}, {[]api.Errno{api.ErrArg, api.OK}, api.ErrArg},
+	} {
+		if e := rules.First(c.errors...); e != c.want {
+			t.Errorf("First(%v) = %d, want %d", c.errors, e, c.want)
+		}
+	}
+	if a, b := rules.Unless(true, api.ErrArg), rules.Unless(false, api.ErrArg); a != api.OK || b != api.ErrArg {
+		t.Errorf("Unless = %d, %d", a, b)
+	}
+}
+
+// R7: bounds are included.
+func TestWithin(t *testing.T) {
+	for n, want := range map[int]bool{1: false, 2: true, 3: true, 4: true, 5: false, -1 << 63: false, 1<<63 - 1: false} {
+		if rules.Within(n, 2, 4) != want {
+			t.Errorf("Within(%d, 2, 4) is not %v", n, want)
+		}
+	}
+}
+
+// R9: digits without a leading zero or a sign.
+func TestNumber(t *testing.T) {
+	for word, want := range map[string]int{"0": 0, "7": 7, "10": 10, "99": 99} {
+		if n, ok := rules.Number(word, 2); n != want || !ok {
+			t.Errorf("Number(%q) = %d, %v", word, n, ok)
+		}
+	}
+	for _, word := range []string{"", "00", "01", "100", "-1", "+1", " 1", "1 ", "1a", "/", ":", "٣", "\x00", "\xff"} {
+		if n, ok := rules.Number(word, 2); n != 0 || ok {
+			t.Errorf("Number(%q) = %d, %v", word, n, ok)
+		}
+	}
+	if n, ok := rules.Number("999999999999999999", 18); n != 999999999999999999 || !ok {
+		t.Errorf("Number of 18 digits = %d, %v", n, ok)
+	}
+}
+
+func TestDigits(t *testing.T) {
+	for word, want := range map[string][]int{"0": {0}, "007": {0, 0, 7}, "9012": {9, 0, 1, 2}} {
+		if l, ok := rules.Digits(word, 4); !slices.Equal(l, want) || !ok {
+			t.Errorf("Digits(%q) = %v, %v", word, l, ok)
+		}
+	}
+	for _, word := range []string{"", "12345", "1/", "1:", "a", "\xff\xff"} {
+		if l, ok := rules.Digits(word, 4); l != nil || ok {
+			t.Errorf("Digits(%q) = %v, %v", word, l, ok)
+		}
+	}
+}
