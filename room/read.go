@@ -32,9 +32,9 @@ type reader struct {
 // read reads a line, and reports whether it has the form of one that may stand there.
 func (x *reader) read(text string) (is bool) {
 	defer func() {
-		wrong := recover()
-		if _, known := wrong.(misfit); wrong != nil && !known {
-			panic(wrong)
+		// Nothing else panics here; if it did, the line would count as one that is not read, for Parse never panics.
+		if _, wrong := recover().(misfit); wrong {
+			is = false
 		}
 	}()
 	line, ended := strings.CutSuffix(text, "\n")

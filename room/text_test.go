@@ -207,13 +207,12 @@ func TestParseCheck(t *testing.T) {
 	}
 }
 
-// P2.10: of several that have a name the first one is meant (seen where another one would be an error of its own).
-func TestParseFirstName(t *testing.T) {
+// P2.10: two of a kind that share a name can be read, but are not valid; what is of different kinds may share one.
+func TestParseNames(t *testing.T) {
 	const text = "place a\nplace b\nthing t at b states 2 start 0\nthing t at b states 3 start 0\nprop p gone if t=2\nplayers 1\ngoal\n"
 	if _, line, e := room.Parse(text); line != 0 || e != api.ErrThing {
 		t.Errorf("Parse: line %d, %d", line, e)
 	}
-	// Things, props, places and acts may share names.
 	const shared = "place a\nplace b\nthing b at b states 2 start 0\nprop a at a\nprop b at b\nact a at b with b if b=1\nplayers 1\ngoal b=1\n"
 	r, line, e := room.Parse(shared)
 	want := api.Room{Places: []string{"a", "b"}, Things: []api.Thing{{Name: "b", Place: 1, States: 2}}, Props: []api.Prop{{Name: "a"}, {Name: "b", Place: 1}}, Acts: []api.Act{{Name: "a", Place: 1, Lock: -1, Uses: []int{1}, When: api.Cond{{State: 1}}}}, Players: 1, Goal: api.Cond{{State: 1}}}
