@@ -39,12 +39,7 @@ func (l lock) hasWheel(n int) bool { return rules.Within(n, 0, l.Wheels-1) }
 func (l lock) hasSymbol(n int) bool { return rules.Within(n, 0, l.Symbols-1) }
 
 func (l lock) hasCode(code []int) bool {
-	for _, s := range code {
-		if !l.hasSymbol(s) {
-			return false
-		}
-	}
-	return len(code) == l.Wheels
+	return len(code) == l.Wheels && rules.AllWithin(code, 0, l.Symbols-1)
 }
 
 func (l lock) checkCodes(codes ...[]int) api.Errno {

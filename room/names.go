@@ -4,20 +4,14 @@ import (
 	"slices"
 
 	"padlock/api"
+	"padlock/rules"
 )
 
 // isName reports whether a text is a name.
 func isName(s string) bool { return len(s) <= api.MaxName && isWord(s) }
 
 // isWord reports whether a text has the form of a name, but for its length.
-func isWord(s string) bool {
-	for i := range len(s) {
-		if s[i] < 'a' || s[i] > 'z' {
-			return false
-		}
-	}
-	return s != "" && !isReserved(s)
-}
+func isWord(s string) bool { return s != "" && rules.AreLetters(s) && !isReserved(s) }
 
 // isReserved reports whether a word has a meaning behind names, so that it can be none.
 func isReserved(s string) bool {
@@ -45,15 +39,4 @@ func find[E any](list []E, name string, nameOf func(E) string) int {
 func isNew[E any](list []E, i int, nameOf func(E) string) bool {
 	name := nameOf(list[i])
 	return isName(name) && find(list, name, nameOf) == i
-}
-
-// numbers returns the numbers from 0 to n-1 that a function accepts.
-func numbers(n int, accepts func(int) bool) []int {
-	var list []int
-	for i := range n {
-		if accepts(i) {
-			list = append(list, i)
-		}
-	}
-	return list
 }

@@ -160,7 +160,7 @@ func (p played) has(player, prop int) bool { return p.State.Props[prop] == hand(
 
 // inHand returns how many props a player has in the hand.
 func (p played) inHand(player int) int {
-	return len(numbers(len(p.State.Props), func(prop int) bool { return p.has(player, prop) }))
+	return len(rules.Numbers(len(p.State.Props), func(prop int) bool { return p.has(player, prop) }))
 }
 
 // lies reports whether a prop lies at a place so that it can be seen and taken.

@@ -1,4 +1,4 @@
-// Package rules contains what the layers need to keep to the rules of shared/DOC.md: the order of errors, limits, and numbers in texts.
+// Package rules contains what the layers need to keep to the rules of shared/DOC.md: the order of errors, limits, letters and numbers.
 package rules
 
 import "padlock/api"
@@ -23,6 +23,37 @@ func Unless(is bool, e api.Errno) api.Errno {
 
 // Within reports whether a number is from least to most (R7).
 func Within(n, least, most int) bool { return least <= n && n <= most }
+
+// AllWithin reports whether all numbers of a list are from least to most (R7).
+func AllWithin(list []int, least, most int) bool {
+	for _, n := range list {
+		if !Within(n, least, most) {
+			return false
+		}
+	}
+	return true
+}
+
+// Numbers returns the numbers from 0 to n-1 that a function accepts, in ascending order.
+func Numbers(n int, accepts func(int) bool) []int {
+	var list []int
+	for i := range n {
+		if accepts(i) {
+			list = append(list, i)
+		}
+	}
+	return list
+}
+
+// AreLetters reports whether a text has no other bytes than those from a to z.
+func AreLetters(text string) bool {
+	for i := range len(text) {
+		if !Within(int(text[i]), 'a', 'z') {
+			return false
+		}
+	}
+	return true
+}
 
 // Number reads a number of one to most digits without a leading zero (R9). It never overflows with most up to 18.
 func Number(word string, most int) (n int, ok bool) {

@@ -34,6 +34,34 @@ func TestWithin(t *testing.T) {
 	}
 }
 
+func TestAllWithin(t *testing.T) {
+	for _, c := range []struct {
+		list []int
+		want bool
+	}{{nil, true}, {[]int{2}, true}, {[]int{4, 2, 3}, true}, {[]int{1, 2}, false}, {[]int{2, 5}, false}, {[]int{2, 1<<63 - 1, 2}, false}} {
+		if rules.AllWithin(c.list, 2, 4) != c.want {
+			t.Errorf("AllWithin(%v, 2, 4) is not %v", c.list, c.want)
+		}
+	}
+}
+
+func TestNumbers(t *testing.T) {
+	odd := func(n int) bool { return n%2 == 1 }
+	for n, want := range map[int][]int{-1: nil, 0: nil, 1: nil, 2: {1}, 5: {1, 3}, 6: {1, 3, 5}} {
+		if l := rules.Numbers(n, odd); !slices.Equal(l, want) {
+			t.Errorf("Numbers(%d) = %v, want %v", n, l, want)
+		}
+	}
+}
+
+func TestAreLetters(t *testing.T) {
+	for text, want := range map[string]bool{"": true, "a": true, "az": true, "`": false, "{": false, "aZ": false, "1a": false, "a b": false, "\xe1": false} {
+		if rules.AreLetters(text) != want {
+			t.Errorf("AreLetters(%q) is not %v", text, want)
+		}
+	}
+}
+
 // R9: digits without a leading zero or a sign.
 func TestNumber(t *testing.T) {
 	for word, want := range map[string]int{"0": 0, "7": 7, "10": 10, "99": 99} {
