@@ -19,10 +19,7 @@ func write(c api.Clue) string {
 		text += " " + strconv.Itoa(*field(&c, letter))
 	}
 	if s.guess {
-		text += " "
-		for _, n := range c.Guess {
-			text += strconv.Itoa(n)
-		}
+		text += " " + rules.FromDigits(c.Guess)
 	}
 	return text
 }

@@ -4,11 +4,9 @@ import (
 	"slices"
 
 	"padlock/api"
+	"padlock/language"
 	"padlock/rules"
 )
-
-// isOf reports whether a number is that of an element of a list.
-func isOf[E any](list []E, n int) bool { return rules.Within(n, 0, len(list)-1) }
 
 func tooMany(r api.Room) bool {
 	return len(r.Places) > api.MaxPlaces || len(r.Things) > api.MaxThings || len(r.Props) > api.MaxProps ||
@@ -17,7 +15,7 @@ func tooMany(r api.Room) bool {
 
 func checkPlaces(r api.Room) api.Errno {
 	for i := range r.Places {
-		if !isNew(r.Places, i, nameOfPlace) {
+		if !language.IsNew(r.Places, i, language.NameOfPlace) {
 			return api.ErrPlace
 		}
 	}
@@ -26,7 +24,7 @@ func checkPlaces(r api.Room) api.Errno {
 
 func checkThings(r api.Room) api.Errno {
 	for i, t := range r.Things {
-		if !isNew(r.Things, i, nameOfThing) || !isOf(r.Places, t.Place) ||
+		if !language.IsNew(r.Things, i, language.NameOfThing) || !rules.IsOf(r.Places, t.Place) ||
 			!rules.Within(t.States, 2, api.MaxStates) || !rules.Within(t.Start, 0, t.States-1) {
 			return api.ErrThing
 		}
@@ -36,7 +34,7 @@ func checkThings(r api.Room) api.Errno {
 
 func checkProps(r api.Room) api.Errno {
 	for i, p := range r.Props {
-		if !isNew(r.Props, i, nameOfProp) || p.Place != api.Gone && !isOf(r.Places, p.Place) {
+		if !language.IsNew(r.Props, i, nameOfProp) || p.Place != api.Gone && !rules.IsOf(r.Places, p.Place) {
 			return api.ErrProp
 		}
 		if e := checkCond(r, p.When); e != api.OK {
@@ -48,7 +46,7 @@ func checkProps(r api.Room) api.Errno {
 
 func checkWays(r api.Room) api.Errno {
 	for _, w := range r.Ways {
-		if !isOf(r.Places, w.A) || !isOf(r.Places, w.B) || w.A == w.B {
+		if !rules.IsOf(r.Places, w.A) || !rules.IsOf(r.Places, w.B) || w.A == w.B {
 			return api.ErrWay
 		}
 		if e := checkCond(r, w.When); e != api.OK {
@@ -60,7 +58,7 @@ func checkWays(r api.Room) api.Errno {
 
 func checkActs(r api.Room) api.Errno {
 	for i, a := range r.Acts {
-		if !isNew(r.Acts, i, nameOfAct) || !isOf(r.Places, a.Place) || !rules.Within(a.Lock, -1, api.MaxLocks-1) ||
+		if !language.IsNew(r.Acts, i, nameOfAct) || !rules.IsOf(r.Places, a.Place) || !rules.Within(a.Lock, -1, api.MaxLocks-1) ||
 			!moveRightly(r, a) || !setRightly(r, a.Sets) {
 			return api.ErrAct
 		}
@@ -102,7 +100,7 @@ func checkCond(r api.Room, c api.Cond) api.Errno {
 
 // hasState reports whether there is a thing with this number, and it has this state.
 func hasState(r api.Room, thing, state int) bool {
-	return isOf(r.Things, thing) && rules.Within(state, 0, r.Things[thing].States-1)
+	return rules.IsOf(r.Things, thing) && rules.Within(state, 0, r.Things[thing].States-1)
 }
 
 // moveRightly reports whether an act uses, spends and brings props as it may.
@@ -116,7 +114,7 @@ func moveRightly(r api.Room, a api.Act) bool {
 func ascend(r api.Room, props []int) bool {
 	last := -1
 	for _, p := range props {
-		if p <= last || !isOf(r.Props, p) {
+		if p <= last || !rules.IsOf(r.Props, p) {
 			return false
 		}
 		last = p
@@ -150,7 +148,7 @@ func hasThings(r api.Room, states []int) bool {
 
 func hasProps(r api.Room, spots []int) bool {
 	for _, spot := range spots {
-		if !isOf(r.Places, spot) && spot != api.Gone && !rules.Within(spot, api.Held-r.Players+1, api.Held) {
+		if !rules.IsOf(r.Places, spot) && spot != api.Gone && !rules.Within(spot, api.Held-r.Players+1, api.Held) {
 			return false
 		}
 	}
@@ -159,7 +157,7 @@ func hasProps(r api.Room, spots []int) bool {
 
 func hasPlayers(r api.Room, places []int) bool {
 	for _, place := range places {
-		if !isOf(r.Places, place) {
+		if !rules.IsOf(r.Places, place) {
 			return false
 		}
 	}

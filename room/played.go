@@ -67,7 +67,7 @@ func settled(p played) (api.State, api.Errno) {
 	return p.State, api.OK
 }
 
-func (p played) hasPlayer(n int) bool { return isOf(p.State.Players, n) }
+func (p played) hasPlayer(n int) bool { return rules.IsOf(p.State.Players, n) }
 
 // count returns how many numbers the moves of a kind may have.
 func (p played) count(kind int) int {

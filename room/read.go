@@ -1,9 +1,8 @@
 package room
 
 import (
-	"strings"
-
 	"padlock/api"
+	"padlock/language"
 	"padlock/rules"
 )
 
@@ -25,8 +24,8 @@ type misfit struct{}
 // reader reads a room line by line.
 type reader struct {
 	api.Room
-	part  int
-	words []string // of the line, those that are still to be read
+	part int
+	line language.Line
 }
 
 // read reads a line, and reports whether it has the form of one that may stand there.
@@ -37,11 +36,11 @@ func (x *reader) read(text string) (is bool) {
 			is = false
 		}
 	}()
-	line, ended := strings.CutSuffix(text, "\n")
+	line, ended := language.Split(text)
 	need(ended)
-	x.words = strings.Split(line, " ")
+	x.line = line
 	x.element()
-	need(len(x.words) == 0)
+	need(len(x.line) == 0)
 	return true
 }
 
@@ -90,7 +89,7 @@ func (x *reader) element() {
 		x.Players = x.number()
 	case "goal":
 		x.enter(goalPart)
-		if len(x.words) > 0 {
+		if len(x.line) > 0 {
 			x.Goal = fill(x, x.lit)
 		}
 	default:
@@ -111,7 +110,7 @@ func (x *reader) thing() api.Thing {
 
 func (x *reader) prop() api.Prop {
 	p := api.Prop{Name: x.name(), Place: api.Gone}
-	if !x.skip("gone") {
+	if !x.line.Skip("gone") {
 		x.expect("at")
 		p.Place = x.place()
 	}
@@ -123,7 +122,7 @@ func (x *reader) act() api.Act {
 	a := api.Act{Name: x.name(), Lock: -1}
 	x.expect("at")
 	a.Place = x.place()
-	if x.skip("lock") {
+	if x.line.Skip("lock") {
 		a.Lock = x.number()
 	}
 	a.Uses = behindWord(x, "with", x.known)
@@ -138,7 +137,7 @@ func (x *reader) when() api.Cond { return behindWord(x, "if", x.lit) }
 
 // behindWord reads the list that a word announces, if the word stands there.
 func behindWord[E any](x *reader, word string, one func() E) []E {
-	if !x.skip(word) {
+	if !x.line.Skip(word) {
 		return nil
 	}
 	return fill(x, one)
@@ -147,65 +146,48 @@ func behindWord[E any](x *reader, word string, one func() E) []E {
 // fill reads a list of at least one element, up to a word that announces something else.
 func fill[E any](x *reader, one func() E) []E {
 	list := []E{one()}
-	for len(x.words) > 0 && !isReserved(x.words[0]) {
+	for x.line.GoesOn() {
 		list = append(list, one())
 	}
 	return list
 }
 
 func (x *reader) word() string {
-	need(len(x.words) > 0)
-	word := x.words[0]
-	x.words = x.words[1:]
+	word, ok := x.line.Next()
+	need(ok)
 	return word
 }
 
-// skip reads a word if it stands there.
-func (x *reader) skip(word string) bool {
-	is := len(x.words) > 0 && x.words[0] == word
-	if is {
-		x.words = x.words[1:]
-	}
-	return is
-}
-
-func (x *reader) expect(word string) { need(x.skip(word)) }
+func (x *reader) expect(word string) { need(x.line.Skip(word)) }
 
 func (x *reader) name() string {
 	word := x.word()
-	need(isWord(word))
+	need(language.IsWord(word))
 	return word
 }
 
-func (x *reader) number() int { return number(x.word()) }
-
-func number(word string) int {
-	n, ok := rules.Number(word, 2)
+func (x *reader) number() int {
+	n, ok := rules.Number(x.word(), 2)
 	need(ok)
 	return n
 }
 
-func (x *reader) place() int { return numberOf(x.Places, x.word(), nameOfPlace) }
+func (x *reader) place() int { return numberOf(x.Places, x.word(), language.NameOfPlace) }
 
 // known reads the name of a prop whose line stands before.
 func (x *reader) known() int { return numberOf(x.Props, x.word(), nameOfProp) }
 
 // numberOf returns the number of the element that a word names. All names that are read are names, and so is one that is found among them.
 func numberOf[E any](list []E, word string, nameOf func(E) string) int {
-	n := find(list, word, nameOf)
+	n := language.Find(list, word, nameOf)
 	need(n >= 0)
 	return n
 }
 
 func (x *reader) lit() api.Lit {
-	word := x.word()
-	sign := strings.IndexAny(word, "=!")
-	need(sign >= 0)
-	return api.Lit{
-		Thing: numberOf(x.Things, word[:sign], nameOfThing),
-		State: number(word[sign+1:]),
-		Not:   word[sign] == '!',
-	}
+	l, ok := language.ReadLit(x.Things, x.word())
+	need(ok)
+	return l
 }
 
 func (x *reader) set() api.Set {

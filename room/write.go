@@ -1,11 +1,11 @@
 package room
 
 import (
-	"slices"
 	"strconv"
 	"strings"
 
 	"padlock/api"
+	"padlock/language"
 )
 
 // writer collects the lines of a valid room.
@@ -29,37 +29,20 @@ func write(r api.Room) string {
 		w.line([]string{"way", w.Places[x.A], w.Places[x.B]}, w.when(x.When))
 	}
 	for _, a := range w.Acts {
-		w.line([]string{"act", a.Name}, w.at(a.Place), behindLock(a.Lock), behind("with", w.props(a.Uses)), w.when(a.When),
-			behind("sets", each(a.Sets, w.set)), behind("spends", w.props(a.Spends)), behind("brings", w.props(a.Brings)))
+		w.line([]string{"act", a.Name}, w.at(a.Place), behindLock(a.Lock), language.Behind("with", w.props(a.Uses)), w.when(a.When),
+			language.Behind("sets", language.Each(a.Sets, w.set)), language.Behind("spends", w.props(a.Spends)), language.Behind("brings", w.props(a.Brings)))
 	}
 	for _, a := range w.Autos {
 		w.line([]string{"auto", w.set(a.Set)}, w.when(a.When))
 	}
 	w.line([]string{"players", strconv.Itoa(w.Players)})
-	w.line([]string{"goal"}, each(w.Goal, w.lit))
+	w.line([]string{"goal"}, language.Each(w.Goal, w.lit))
 	return w.text.String()
 }
 
 // line writes a line that has all words of its parts.
 func (w *writer) line(parts ...[]string) {
-	w.text.WriteString(strings.Join(slices.Concat(parts...), " ") + "\n")
-}
-
-// each returns the words of the elements of a list.
-func each[E any](list []E, word func(E) string) []string {
-	var words []string
-	for _, x := range list {
-		words = append(words, word(x))
-	}
-	return words
-}
-
-// behind returns a word and what it announces, or nothing if there is nothing to be announced.
-func behind(word string, list []string) []string {
-	if len(list) == 0 {
-		return nil
-	}
-	return append([]string{word}, list...)
+	w.text.WriteString(language.Join(parts...))
 }
 
 func behindLock(lock int) []string {
@@ -76,21 +59,15 @@ func (w *writer) at(place int) []string {
 	return []string{"at", w.Places[place]}
 }
 
-func (w *writer) when(c api.Cond) []string { return behind("if", each(c, w.lit)) }
+func (w *writer) when(c api.Cond) []string { return language.If(w.Things, c) }
 
 func (w *writer) props(list []int) []string {
-	return each(list, func(prop int) string { return w.Props[prop].Name })
+	return language.Each(list, func(prop int) string { return w.Props[prop].Name })
 }
 
-func (w *writer) set(s api.Set) string { return w.Things[s.Thing].Name + "=" + strconv.Itoa(s.State) }
+func (w *writer) set(s api.Set) string { return w.lit(api.Lit{Thing: s.Thing, State: s.State}) }
 
-func (w *writer) lit(l api.Lit) string {
-	sign := "="
-	if l.Not {
-		sign = "!"
-	}
-	return w.Things[l.Thing].Name + sign + strconv.Itoa(l.State)
-}
+func (w *writer) lit(l api.Lit) string { return language.WriteLit(w.Things, l) }
 
 // text returns a state as one line without a line feed.
 func (p played) text() string {

@@ -1,7 +1,11 @@
 // Package rules contains what the layers need to keep to the rules of shared/DOC.md: the order of errors, limits, letters and numbers.
 package rules
 
-import "padlock/api"
+import (
+	"strconv"
+
+	"padlock/api"
+)
 
 // First returns the first error of several (R1). All of them are computed before, so none may rely on the absence of another.
 func First(errors ...api.Errno) api.Errno {
@@ -33,6 +37,9 @@ func AllWithin(list []int, least, most int) bool {
 	}
 	return true
 }
+
+// IsOf reports whether a number is that of an element of a list.
+func IsOf[E any](list []E, n int) bool { return Within(n, 0, len(list)-1) }
 
 // Numbers returns the numbers from 0 to n-1 that a function accepts, in ascending order.
 func Numbers(n int, accepts func(int) bool) []int {
@@ -80,4 +87,13 @@ func Digits(word string, most int) ([]int, bool) {
 		list[i] = int(word[i] - '0')
 	}
 	return list, true
+}
+
+// FromDigits writes digits with nothing between them; Digits is its inverse.
+func FromDigits(digits []int) string {
+	text := ""
+	for _, d := range digits {
+		text += strconv.Itoa(d)
+	}
+	return text
 }

@@ -45,6 +45,17 @@ func TestAllWithin(t *testing.T) {
 	}
 }
 
+func TestIsOf(t *testing.T) {
+	for n, want := range map[int]bool{-1 << 63: false, -1: false, 0: true, 1: true, 2: false, 1<<63 - 1: false} {
+		if rules.IsOf([]string{"a", "b"}, n) != want {
+			t.Errorf("IsOf(%d) is not %v", n, want)
+		}
+	}
+	if rules.IsOf([]int(nil), 0) {
+		t.Error("an empty list has an element")
+	}
+}
+
 func TestNumbers(t *testing.T) {
 	odd := func(n int) bool { return n%2 == 1 }
 	for n, want := range map[int][]int{-1: nil, 0: nil, 1: nil, 2: {1}, 5: {1, 3}, 6: {1, 3, 5}} {
@@ -81,7 +92,7 @@ func TestNumber(t *testing.T) {
 
 func TestDigits(t *testing.T) {
 	for word, want := range map[string][]int{"0": {0}, "007": {0, 0, 7}, "9012": {9, 0, 1, 2}} {
-		if l, ok := rules.Digits(word, 4); !slices.Equal(l, want) || !ok {
+		if l, ok := rules.Digits(word, 4); !slices.Equal(l, want) || !ok || rules.FromDigits(l) != word {
 			t.Errorf("Digits(%q) = %v, %v", word, l, ok)
 		}
 	}
