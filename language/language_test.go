@@ -33,7 +33,7 @@ func TestFind(t *testing.T) {
 		}
 	}
 	for i, want := range []bool{true, false, false, true} {
-		if is := language.IsNew(things, i, language.NameOfThing); is != want {
+		if is := language.IsNew(language.Each(things, language.NameOfThing), i); is != want {
 			t.Errorf("IsNew(%d) = %v", i, is)
 		}
 	}
@@ -78,6 +78,26 @@ func TestLiterals(t *testing.T) {
 		if l, ok := language.ReadLit(things, word); l != (api.Lit{}) || ok {
 			t.Errorf("ReadLit(%q) = %v, %v", word, l, ok)
 		}
+	}
+}
+
+// P2.1: a condition has at most 8 literals, each with a thing and one of its states.
+func TestConditions(t *testing.T) {
+	things := []api.Thing{{Name: "box", States: 2}, {Name: "door", States: 3}}
+	for _, c := range []struct {
+		cond api.Cond
+		want bool
+	}{
+		{nil, true}, {make(api.Cond, 8), true}, {make(api.Cond, 9), false},
+		{api.Cond{{State: 1}, {Thing: 1, State: 2, Not: true}}, true}, {api.Cond{{State: 2}}, false}, {api.Cond{{}, {State: -1}}, false},
+		{api.Cond{{}, {Thing: 1, State: 3, Not: true}}, false}, {api.Cond{{Thing: 2}, {}}, false}, {api.Cond{{Thing: -1}}, false},
+	} {
+		if is := language.IsCond(things, c.cond); is != c.want {
+			t.Errorf("IsCond(%v) = %v", c.cond, is)
+		}
+	}
+	if language.HasState(nil, 0, 0) || !language.HasState(things, 1, 2) || language.HasState(things, 0, 2) {
+		t.Error("HasState")
 	}
 }
 

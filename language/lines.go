@@ -42,9 +42,9 @@ func Join(parts ...[]string) string {
 
 // Each returns the words of the elements of a list.
 func Each[E any](list []E, word func(E) string) []string {
-	var words []string
-	for _, x := range list {
-		words = append(words, word(x))
+	words := make([]string, len(list))
+	for i, x := range list {
+		words[i] = word(x)
 	}
 	return words
 }

@@ -1,6 +1,7 @@
 package language
 
 import (
+	"slices"
 	"strconv"
 	"strings"
 
@@ -10,6 +11,17 @@ import (
 
 // maxDigits is how many digits the number of a state has.
 const maxDigits = 2
+
+// HasState reports whether one of some things has this number, and has this state.
+func HasState(things []api.Thing, thing, state int) bool {
+	return rules.IsOf(things, thing) && rules.Within(state, 0, things[thing].States-1)
+}
+
+// IsCond reports whether a condition about some things is valid.
+func IsCond(things []api.Thing, c api.Cond) bool {
+	wrong := func(l api.Lit) bool { return !HasState(things, l.Thing, l.State) }
+	return len(c) <= api.MaxLits && !slices.ContainsFunc(c, wrong)
+}
 
 // ReadLit reads a literal about one of some things; the state need not be one of the thing.
 func ReadLit(things []api.Thing, word string) (api.Lit, bool) {

@@ -28,13 +28,12 @@ func Find[E any](list []E, name string, nameOf func(E) string) int {
 	return slices.IndexFunc(list, func(x E) bool { return nameOf(x) == name })
 }
 
-// IsNew reports whether an element has a name that no element before it has.
-func IsNew[E any](list []E, i int, nameOf func(E) string) bool {
-	name := nameOf(list[i])
-	return IsName(name) && Find(list, name, nameOf) == i
+// IsNew reports whether a text of a list is a name, and no text before it is the same.
+func IsNew(list []string, i int) bool {
+	return IsName(list[i]) && !slices.Contains(list[:i], list[i])
 }
 
-// NameOfPlace returns the name of a place, which is the place itself, for Find and IsNew.
+// NameOfPlace returns the name of a place, which is the place itself, for Find.
 func NameOfPlace(name string) string { return name }
 
 // NameOfThing returns the name of a thing.

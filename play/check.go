@@ -54,12 +54,13 @@ func checkActs(g api.Game) api.Errno {
 }
 
 func checkNotes(g api.Game) api.Errno {
+	names := language.Each(g.Notes, nameOfNote)
 	for i, n := range g.Notes {
-		if !language.IsNew(g.Notes, i, nameOfNote) || !rules.IsOf(g.Room.Places, n.Place) || !isTrue(g, n) {
+		if !language.IsNew(names, i) || !rules.IsOf(g.Room.Places, n.Place) || !isTrue(g, n) {
 			return api.ErrNote
 		}
-		if e := checkCond(g.Room, n.When); e != api.OK {
-			return e
+		if !language.IsCond(g.Room.Things, n.When) {
+			return api.ErrCond
 		}
 	}
 	return api.OK
@@ -83,17 +84,14 @@ func isTrue(g api.Game, n api.Note) bool {
 	return is && e == api.OK
 }
 
-// checkCond returns ErrCond unless a condition is valid for a valid room: it is if it could be the goal where the same things are.
-func checkCond(r api.Room, c api.Cond) api.Errno {
-	return room.Check(api.Room{Places: r.Places, Things: r.Things, Players: 1, Goal: c})
-}
-
 // checkPosition returns the errors that all functions with a position return first.
 func checkPosition(g api.Game, p api.Position) api.Errno {
-	if e := Check(g); e != api.OK {
-		return e
+	// With a wrong state the room is right, so that it need not be checked by itself; but the rest of the game comes before the state.
+	state := room.CheckState(g.Room, p.State)
+	if state != api.OK && state != api.ErrState {
+		return state
 	}
-	return rules.First(room.CheckState(g.Room, p.State), rules.Unless(len(p.Read) == len(g.Notes), api.ErrState))
+	return rules.First(check(g), state, rules.Unless(len(p.Read) == len(g.Notes), api.ErrState))
 }
 
 // checkLock returns ErrArg unless a game has a lock with this number.

@@ -15,7 +15,7 @@ func tooMany(r api.Room) bool {
 
 func checkPlaces(r api.Room) api.Errno {
 	for i := range r.Places {
-		if !language.IsNew(r.Places, i, language.NameOfPlace) {
+		if !language.IsNew(r.Places, i) {
 			return api.ErrPlace
 		}
 	}
@@ -23,8 +23,9 @@ func checkPlaces(r api.Room) api.Errno {
 }
 
 func checkThings(r api.Room) api.Errno {
+	names := language.Each(r.Things, language.NameOfThing)
 	for i, t := range r.Things {
-		if !language.IsNew(r.Things, i, language.NameOfThing) || !rules.IsOf(r.Places, t.Place) ||
+		if !language.IsNew(names, i) || !rules.IsOf(r.Places, t.Place) ||
 			!rules.Within(t.States, 2, api.MaxStates) || !rules.Within(t.Start, 0, t.States-1) {
 			return api.ErrThing
 		}
@@ -33,8 +34,9 @@ func checkThings(r api.Room) api.Errno {
 }
 
 func checkProps(r api.Room) api.Errno {
+	names := language.Each(r.Props, nameOfProp)
 	for i, p := range r.Props {
-		if !language.IsNew(r.Props, i, nameOfProp) || p.Place != api.Gone && !rules.IsOf(r.Places, p.Place) {
+		if !language.IsNew(names, i) || p.Place != api.Gone && !rules.IsOf(r.Places, p.Place) {
 			return api.ErrProp
 		}
 		if e := checkCond(r, p.When); e != api.OK {
@@ -57,8 +59,9 @@ func checkWays(r api.Room) api.Errno {
 }
 
 func checkActs(r api.Room) api.Errno {
+	names := language.Each(r.Acts, nameOfAct)
 	for i, a := range r.Acts {
-		if !language.IsNew(r.Acts, i, nameOfAct) || !rules.IsOf(r.Places, a.Place) || !rules.Within(a.Lock, -1, api.MaxLocks-1) ||
+		if !language.IsNew(names, i) || !rules.IsOf(r.Places, a.Place) || !rules.Within(a.Lock, -1, api.MaxLocks-1) ||
 			!moveRightly(r, a) || !setRightly(r, a.Sets) {
 			return api.ErrAct
 		}
@@ -71,7 +74,7 @@ func checkActs(r api.Room) api.Errno {
 
 func checkAutos(r api.Room) api.Errno {
 	for _, a := range r.Autos {
-		if !hasState(r, a.Set.Thing, a.Set.State) {
+		if !language.HasState(r.Things, a.Set.Thing, a.Set.State) {
 			return api.ErrAuto
 		}
 		if e := checkCond(r, a.When); e != api.OK {
@@ -87,20 +90,7 @@ func checkTeam(r api.Room) api.Errno {
 
 // checkCond returns ErrCond unless a condition is valid.
 func checkCond(r api.Room, c api.Cond) api.Errno {
-	if len(c) > api.MaxLits {
-		return api.ErrCond
-	}
-	for _, l := range c {
-		if !hasState(r, l.Thing, l.State) {
-			return api.ErrCond
-		}
-	}
-	return api.OK
-}
-
-// hasState reports whether there is a thing with this number, and it has this state.
-func hasState(r api.Room, thing, state int) bool {
-	return rules.IsOf(r.Things, thing) && rules.Within(state, 0, r.Things[thing].States-1)
+	return rules.Unless(language.IsCond(r.Things, c), api.ErrCond)
 }
 
 // moveRightly reports whether an act uses, spends and brings props as it may.
@@ -129,7 +119,7 @@ func setRightly(r api.Room, sets []api.Set) bool {
 	}
 	for i, s := range sets {
 		again := slices.ContainsFunc(sets[:i], func(t api.Set) bool { return t.Thing == s.Thing })
-		if again || !hasState(r, s.Thing, s.State) {
+		if again || !language.HasState(r.Things, s.Thing, s.State) {
 			return false
 		}
 	}
@@ -139,7 +129,7 @@ func setRightly(r api.Room, sets []api.Set) bool {
 // hasThings, hasProps and hasPlayers report whether a room can stand so.
 func hasThings(r api.Room, states []int) bool {
 	for i, state := range states {
-		if !hasState(r, i, state) {
+		if !language.HasState(r.Things, i, state) {
 			return false
 		}
 	}
