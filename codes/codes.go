@@ -63,11 +63,7 @@ func Count(l api.CodeLock, clues []api.Clue) (int, api.Errno) {
 	if e := rules.First(k.check(), k.checkClues(clues, api.MaxClues)); e != api.OK {
 		return 0, e
 	}
-	n := 0
-	for range k.readings(clues) {
-		n++
-	}
-	return n, api.OK
+	return rules.Count(k.readings(clues)), api.OK
 }
 
 // Readings returns the first readings.

@@ -38,7 +38,7 @@ func (b balance) tips(sides []int) int {
 
 // weighings yields the sides with which neither side is heavier, in order.
 func (b balance) weighings(yield func([]int) bool) {
-	for sides := range lists(len(b.weights), leftSide, rightSide) {
+	for sides := range rules.Lists(len(b.weights), leftSide, rightSide) {
 		if b.tips(sides) == 0 && !yield(sides) {
 			return
 		}

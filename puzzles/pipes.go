@@ -69,7 +69,7 @@ func isOpen(piece, side int) bool { return piece>>side&1 == 1 }
 
 // plumbings yields the turns that solve the pipes, in order.
 func (p pipes) plumbings(yield func([]int) bool) {
-	for turns := range lists(p.cells(), 0, sideCount-1) {
+	for turns := range rules.Lists(p.cells(), 0, sideCount-1) {
 		if w := p.water(turns); w.wet[p.to] && w.leaks == 0 && !yield(turns) {
 			return
 		}

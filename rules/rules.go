@@ -1,4 +1,4 @@
-// Package rules contains what the layers need to keep to the rules of shared/DOC.md: the order of errors, limits, letters and numbers.
+// Package rules contains what the layers need to keep to the rules of shared/DOC.md: the order of errors, limits, letters, numbers and lists of them.
 package rules
 
 import (

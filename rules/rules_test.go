@@ -1,6 +1,7 @@
 package rules_test
 
 import (
+	"fmt"
 	"slices"
 	"testing"
 
@@ -100,5 +101,42 @@ func TestDigits(t *testing.T) {
 		if l, ok := rules.Digits(word, 4); l != nil || ok {
 			t.Errorf("Digits(%q) = %v, %v", word, l, ok)
 		}
+	}
+}
+
+func TestLists(t *testing.T) {
+	for _, c := range []struct {
+		length, least, most int
+		want                string
+	}{
+		{2, 0, 2, "[0 0][0 1][0 2][1 0][1 1][1 2][2 0][2 1][2 2]"}, {1, -1, 1, "[-1][0][1]"}, {3, 5, 5, "[5 5 5]"}, {0, 0, 9, "[]"},
+	} {
+		text := ""
+		for list := range rules.Lists(c.length, c.least, c.most) {
+			text += fmt.Sprint(list)
+		}
+		if text != c.want {
+			t.Errorf("Lists(%d, %d, %d) = %s, want %s", c.length, c.least, c.most, text, c.want)
+		}
+	}
+	n := 0
+	for range rules.Lists(4, 0, 9) {
+		if n++; n == 3 {
+			break
+		}
+	}
+	if n != 3 {
+		t.Errorf("%d lists", n)
+	}
+}
+
+func TestCount(t *testing.T) {
+	for length, want := range []int{1, 10, 100, 1000, 10000} {
+		if n := rules.Count(rules.Lists(length, 0, 9)); n != want {
+			t.Errorf("Count of the lists with %d digits = %d, want %d", length, n, want)
+		}
+	}
+	if n := rules.Count(slices.Values([]string(nil))); n != 0 {
+		t.Errorf("Count of nothing = %d", n)
 	}
 }
